@@ -679,20 +679,25 @@ func thrownFunc(d *dice, said []opSaid, funcs []int64, args int64) impl.Func {
 	return f
 }
 
+func thrownProgram(t *testing.T, d *dice) impl.Program {
+	t.Helper()
+	var funcs []int64
+	for range 1 + d.below(3) {
+		funcs = append(funcs, int64(d.below(5)))
+	}
+	var p impl.Program
+	for _, args := range funcs {
+		p.Funcs = append(p.Funcs, thrownFunc(d, opsSaid(t), funcs, args))
+	}
+	return p
+}
+
 func TestThrownPrograms(t *testing.T) {
 	said := saidOf(t)
 	d := &dice{u: 4}
 	seen := map[int64]int{}
 	for range 6000 {
-		var funcs []int64
-		for range 1 + d.below(3) {
-			funcs = append(funcs, int64(d.below(5)))
-		}
-		var p impl.Program
-		for _, args := range funcs {
-			p.Funcs = append(p.Funcs, thrownFunc(d, opsSaid(t), funcs, args))
-		}
-		seen[promiseSix(t, said, p)]++
+		seen[promiseSix(t, said, thrownProgram(t, d))]++
 	}
 	for _, code := range []int64{impl.OK, impl.ErrStack, impl.ErrFlow} {
 		if seen[code] < 100 {
