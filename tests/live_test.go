@@ -385,13 +385,19 @@ func TestLiveAtEachHeight(t *testing.T) {
 	}
 }
 
-// All locals that there may be, and all places of the stack, are live at one place.
-func TestMostSlots(t *testing.T) {
+// mostSlots is a function in which all slots that there can be are live at one place.
+func mostSlots(t *testing.T) impl.Program {
+	t.Helper()
 	text := times(8, "push 1") + times(8, "out")
 	for k := range 8 {
 		text += fmt.Sprintf("load %d; ", k)
 	}
-	p := programOf(funcOf(t, 4, 8, text+"set; set; pop; ret"))
+	return programOf(funcOf(t, 4, 8, text+"set; set; pop; ret"))
+}
+
+// All locals that there may be, and all places of the stack, are live at one place.
+func TestMostSlots(t *testing.T) {
+	p := mostSlots(t)
 	live := nums(0x00ff, 0x01ff, 0x03ff, 0x07ff, 0x0fff, 0x1fff, 0x3fff, 0x7fff,
 		0xffff, 0x7fff, 0x3fff, 0x1fff, 0x0fff, 0x07ff, 0x03ff, 0x01ff,
 		0x00ff, 0x01fe, 0x03fc, 0x07f8, 0x0ff0, 0x1fe0, 0x3fc0, 0x7f80,
@@ -550,35 +556,45 @@ func TestLiveOfCalls(t *testing.T) {
 	}
 }
 
-func TestNothingAskedOfWrongPrograms(t *testing.T) {
+// ofWrongPrograms asks of each function, there or not, of programs that are not right.
+func ofWrongPrograms(t *testing.T, ask func(t *testing.T, what string, p impl.Program, f int64)) {
+	t.Helper()
 	for _, c := range loneFaults(t) {
 		for _, p := range []impl.Program{programOf(c.f), programOf(c.f, summing(t).Funcs[0]), programOf(summing(t).Funcs[0], c.f)} {
-			for f := range int64(3) {
-				noneAsked(t, "a program with "+c.what, p, f)
-			}
-			for _, f := range farNumbers() {
-				noneAsked(t, "a program with "+c.what, p, f)
+			for _, f := range append(farNumbers(), 0, 1, 2) {
+				ask(t, "a program with "+c.what, p, f)
 			}
 		}
 	}
 	for _, p := range []impl.Program{{}, programOf([]impl.Func{}...), programOf(impl.Func{}), programOf(slices.Repeat(summing(t).Funcs, 7)...)} {
 		for _, f := range append(farNumbers(), 0, 1, 6, 7) {
-			noneAsked(t, "a program of too few or too many", p, f)
+			ask(t, "a program of too few or too many", p, f)
 		}
 	}
 }
 
-func TestNothingAskedOfNoFunction(t *testing.T) {
+// ofNoFunction asks of functions that are not there, of right programs.
+func ofNoFunction(t *testing.T, ask func(t *testing.T, what string, p impl.Program, f int64)) {
+	t.Helper()
 	for n := range impl.MaxFuncs {
 		p := programOf(slices.Repeat(summing(t).Funcs, n+1)...)
 		for _, f := range append(farNumbers(), int64(n)+1, int64(n)+2, int64(n)+256, -int64(n)-1) {
-			noneAsked(t, fmt.Sprint("a program of ", n+1), p, f)
+			ask(t, fmt.Sprint("a program of ", n+1), p, f)
 		}
-		for f := range int64(n) + 1 {
-			liveIs(t, "a program of several", p, f, nums(3, 7, 3, 5, 13, 5, 3, 6, 14, 6, 3, 2, 4))
-			for _, at := range append(farNumbers(), 13, 14) {
-				slotsIs(t, "a program of several", p, f, at, 0)
-			}
+	}
+}
+
+func TestNothingAskedOfWrongPrograms(t *testing.T) {
+	ofWrongPrograms(t, noneAsked)
+}
+
+func TestNothingAskedOfNoFunction(t *testing.T) {
+	ofNoFunction(t, noneAsked)
+	p := programOf(slices.Repeat(summing(t).Funcs, impl.MaxFuncs)...)
+	for f := range int64(impl.MaxFuncs) {
+		liveIs(t, "a program of several", p, f, nums(3, 7, 3, 5, 13, 5, 3, 6, 14, 6, 3, 2, 4))
+		for _, at := range append(farNumbers(), 13, 14) {
+			slotsIs(t, "a program of several", p, f, at, 0)
 		}
 	}
 }
